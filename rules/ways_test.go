@@ -49,14 +49,35 @@ func handsOnAFunction(f *ast.FuncDecl) bool {
 	return found
 }
 
-// The ways of stage 1: octet's texts are gone through by a range over them, sums' registers go through a function that is handed on.
-func TestWaysOfStageOne(t *testing.T) {
-	leans := map[string]func(*ast.FuncDecl) bool{
-		"octet.Unhex": rangesOverText,
-		"octet.Addr":  rangesOverText,
-		"sums.Crc":    handsOnAFunction,
-		"sums.Net":    handsOnAFunction,
-	}
+// makesAMap: does a function make a map?
+func makesAMap(f *ast.FuncDecl) bool {
+	found := false
+	ast.Inspect(f, func(n ast.Node) bool {
+		if _, ok := n.(*ast.MapType); ok {
+			found = true
+		}
+		return true
+	})
+	return found
+}
+
+// rangesOverCall: does a function go through what a call answers? Where that call answers no list, it answers a function.
+func rangesOverCall(f *ast.FuncDecl) bool {
+	found := false
+	ast.Inspect(f, func(n ast.Node) bool {
+		if loop, ok := n.(*ast.RangeStmt); ok && loop.Key != nil && loop.Value == nil {
+			if _, ok := loop.X.(*ast.CallExpr); ok {
+				found = true
+			}
+		}
+		return true
+	})
+	return found
+}
+
+// wantWays asks each of the functions whether it leans on its way.
+func wantWays(t *testing.T, leans map[string]func(*ast.FuncDecl) bool) {
+	t.Helper()
 	for _, s := range sources(t) {
 		for _, d := range s.file.Decls {
 			f, ok := d.(*ast.FuncDecl)
@@ -75,4 +96,46 @@ func TestWaysOfStageOne(t *testing.T) {
 	for name := range leans {
 		t.Errorf("%s is not there", name)
 	}
+}
+
+// The ways of stage 1: octet's texts are gone through by a range over them, sums' registers go through a function that is handed on.
+func TestWaysOfStageOne(t *testing.T) {
+	wantWays(t, map[string]func(*ast.FuncDecl) bool{
+		"octet.Unhex": rangesOverText,
+		"octet.Addr":  rangesOverText,
+		"sums.Crc":    handsOnAFunction,
+		"sums.Net":    handsOnAFunction,
+	})
+}
+
+// The ways of stage 2: serial holds numbers in a map and compares them by a function that is handed on, gaps goes through what was taken by a range over a function.
+func TestWaysOfStageTwo(t *testing.T) {
+	wantWays(t, map[string]func(*ast.FuncDecl) bool{
+		"serial.once": makesAMap,
+		"serial.Sort": handsOnAFunction,
+		"gaps.Top":    rangesOverCall,
+		"gaps.Blocks": rangesOverCall,
+	})
+	if !hasArray(t, "gaps") {
+		t.Error("gaps: what was taken is no array")
+	}
+}
+
+// hasArray: has a layer a type that is an array?
+func hasArray(t *testing.T, layer string) bool {
+	t.Helper()
+	found := false
+	for _, s := range sources(t) {
+		if layers[s.layer] != layer {
+			continue
+		}
+		ast.Inspect(s.file, func(n ast.Node) bool {
+			if spec, ok := n.(*ast.TypeSpec); ok {
+				of, ok := spec.Type.(*ast.ArrayType)
+				found = found || ok && of.Len != nil
+			}
+			return true
+		})
+	}
+	return found
 }
