@@ -2,6 +2,7 @@ package rules
 
 import (
 	"go/ast"
+	"go/token"
 	"testing"
 )
 
@@ -119,6 +120,56 @@ func TestWaysOfStageTwo(t *testing.T) {
 	if !hasArray(t, "gaps") {
 		t.Error("gaps: what was taken is no array")
 	}
+}
+
+// isVariadic: does a function take as many arguments as it is given?
+func isVariadic(f *ast.FuncDecl) bool {
+	list := f.Type.Params.List
+	if len(list) == 0 {
+		return false
+	}
+	_, ok := list[len(list)-1].Type.(*ast.Ellipsis)
+	return ok
+}
+
+// The ways of stage 3: hash's words are an array, and the 64 of them a literal of the package; cookie's numbers are laid by a variadic call, and gone through by a function that is handed on.
+func TestWaysOfStageThree(t *testing.T) {
+	wantWays(t, map[string]func(*ast.FuncDecl) bool{
+		"cookie.lay":  isVariadic,
+		"cookie.Seal": handsOnAFunction,
+		"cookie.read": handsOnAFunction,
+	})
+	if !hasArray(t, "hash") {
+		t.Error("hash: words are no array")
+	}
+	if n := longestTable(t, "hash"); n != 64 {
+		t.Errorf("hash: the package's longest table has %d words", n)
+	}
+}
+
+// longestTable is how many elements the longest table has that stands at a layer's package level.
+func longestTable(t *testing.T, layer string) int {
+	t.Helper()
+	longest := 0
+	for _, s := range sources(t) {
+		if layers[s.layer] != layer {
+			continue
+		}
+		for _, d := range s.file.Decls {
+			g, ok := d.(*ast.GenDecl)
+			if !ok || g.Tok != token.VAR {
+				continue
+			}
+			for _, spec := range g.Specs {
+				for _, value := range spec.(*ast.ValueSpec).Values {
+					if table, ok := value.(*ast.CompositeLit); ok {
+						longest = max(longest, len(table.Elts))
+					}
+				}
+			}
+		}
+	}
+	return longest
 }
 
 // hasArray: has a layer a type that is an array?
