@@ -190,3 +190,64 @@ func hasArray(t *testing.T, layer string) bool {
 	}
 	return found
 }
+
+// countsByIota: does a layer count constants from 0?
+func countsByIota(t *testing.T, layer string) bool {
+	t.Helper()
+	found := false
+	for _, s := range sources(t) {
+		if layers[s.layer] != layer {
+			continue
+		}
+		for _, d := range s.file.Decls {
+			g, ok := d.(*ast.GenDecl)
+			if !ok || g.Tok != token.CONST {
+				continue
+			}
+			for _, value := range g.Specs[0].(*ast.ValueSpec).Values {
+				of, ok := value.(*ast.Ident)
+				found = found || ok && of.Name == "iota"
+			}
+		}
+	}
+	return found
+}
+
+// rangesOverSum: does a function go through the numbers below what is reckoned, by a range over that?
+func rangesOverSum(f *ast.FuncDecl) bool {
+	found := false
+	ast.Inspect(f, func(n ast.Node) bool {
+		if loop, ok := n.(*ast.RangeStmt); ok {
+			_, sum := loop.X.(*ast.BinaryExpr)
+			found = found || sum
+		}
+		return true
+	})
+	return found
+}
+
+// answersAFunction: does a function make another one and answer it?
+func answersAFunction(f *ast.FuncDecl) bool {
+	found := false
+	ast.Inspect(f, func(n ast.Node) bool {
+		if answer, ok := n.(*ast.ReturnStmt); ok && len(answer.Results) == 1 {
+			_, made := answer.Results[0].(*ast.FuncLit)
+			found = found || made
+		}
+		return true
+	})
+	return found
+}
+
+// The ways of stage 4: ring's owners are counted by iota and found round the ring by a range over a number; ether's text is gone through by a range over it, and a frame's parts are cut by a function that is made and handed on.
+func TestWaysOfStageFour(t *testing.T) {
+	wantWays(t, map[string]func(*ast.FuncDecl) bool{
+		"ring.Owner":    rangesOverSum,
+		"ether.Mac":     rangesOverText,
+		"ether.cutting": answersAFunction,
+		"ether.laying":  answersAFunction,
+	})
+	if !countsByIota(t, "ring") {
+		t.Error("ring: owners are not counted from 0")
+	}
+}
