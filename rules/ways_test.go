@@ -251,3 +251,39 @@ func TestWaysOfStageFour(t *testing.T) {
 		t.Error("ring: owners are not counted from 0")
 	}
 }
+
+// deletes: does a function take something out of a map?
+func deletes(f *ast.FuncDecl) bool {
+	found := false
+	ast.Inspect(f, func(n ast.Node) bool {
+		if call, ok := n.(*ast.CallExpr); ok {
+			of, ok := call.Fun.(*ast.Ident)
+			found = found || ok && of.Name == "delete"
+		}
+		return true
+	})
+	return found
+}
+
+// cutsByThree: does a function cut a list with three indices?
+func cutsByThree(f *ast.FuncDecl) bool {
+	found := false
+	ast.Inspect(f, func(n ast.Node) bool {
+		if cut, ok := n.(*ast.SliceExpr); ok {
+			found = found || cut.Slice3
+		}
+		return true
+	})
+	return found
+}
+
+// The ways of stage 5: arp's neighbours are laid into a map and go out of it; ip's packets are read by a function that goes on where it stood, and cut with three indices.
+func TestWaysOfStageFive(t *testing.T) {
+	wantWays(t, map[string]func(*ast.FuncDecl) bool{
+		"arp.keep":     makesAMap,
+		"arp.makeRoom": deletes,
+		"arp.Tick":     deletes,
+		"ip.reading":   answersAFunction,
+		"ip.cut":       cutsByThree,
+	})
+}
