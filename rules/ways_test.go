@@ -287,3 +287,101 @@ func TestWaysOfStageFive(t *testing.T) {
 		"ip.cut":       cutsByThree,
 	})
 }
+
+// has: does a function have something of which is says that it is it?
+func has(is func(ast.Node) bool) func(*ast.FuncDecl) bool {
+	return func(f *ast.FuncDecl) bool {
+		found := false
+		ast.Inspect(f, func(n ast.Node) bool {
+			found = found || n != nil && is(n)
+			return true
+		})
+		return found
+	}
+}
+
+// isCallOf asks whether something is a call of a function by its name.
+func isCallOf(name string) func(ast.Node) bool {
+	return func(n ast.Node) bool {
+		call, ok := n.(*ast.CallExpr)
+		if !ok {
+			return false
+		}
+		of, ok := call.Fun.(*ast.Ident)
+		return ok && of.Name == name
+	}
+}
+
+// asserts: does a function take a value out of an interface, by the name of its type?
+func asserts(n ast.Node) bool {
+	x, ok := n.(*ast.TypeAssertExpr)
+	return ok && x.Type != nil
+}
+
+// switchesOnType: does a function ask which type a value has?
+func switchesOnType(n ast.Node) bool {
+	_, ok := n.(*ast.TypeSwitchStmt)
+	return ok
+}
+
+// holdsAgainst: does a function hold two things against each other?
+func holdsAgainst(n ast.Node) bool {
+	x, ok := n.(*ast.BinaryExpr)
+	return ok && (x.Op == token.EQL || x.Op == token.NEQ)
+}
+
+// defersRecover: does a function take a panic back in a literal that is deferred?
+func defersRecover(n ast.Node) bool {
+	x, ok := n.(*ast.DeferStmt)
+	if !ok {
+		return false
+	}
+	_, literal := x.Call.Fun.(*ast.FuncLit)
+	found := false
+	ast.Inspect(x, func(n ast.Node) bool {
+		found = found || n != nil && isCallOf("recover")(n)
+		return true
+	})
+	return literal && found
+}
+
+// kindOf is which kind of type stands in a layer under a name.
+func kindOf(t *testing.T, layer, name string) ast.Expr {
+	t.Helper()
+	for _, s := range sources(t) {
+		if layers[s.layer] != layer {
+			continue
+		}
+		for _, d := range s.file.Decls {
+			g, ok := d.(*ast.GenDecl)
+			if !ok || g.Tok != token.TYPE {
+				continue
+			}
+			for _, spec := range g.Specs {
+				if x := spec.(*ast.TypeSpec); x.Name.Name == name {
+					return x.Type
+				}
+			}
+		}
+	}
+	return nil
+}
+
+// The ways of stage 6: reasm's packets are told apart by structs, and go out of their list by a function that is handed on; chunk's values stand in an interface and are asserted, and its reader panics with a fault that a deferred literal takes back.
+func TestWaysOfStageSix(t *testing.T) {
+	wantWays(t, map[string]func(*ast.FuncDecl) bool{
+		"reasm.named":      has(holdsAgainst),
+		"reasm.Tick":       handsOnAFunction,
+		"chunk.chunkOf":    has(switchesOnType),
+		"chunk.takeValue":  has(switchesOnType),
+		"chunk.lacksData":  has(asserts),
+		"chunk.must":       has(isCallOf("panic")),
+		"chunk.readPacket": has(defersRecover),
+	})
+	if _, ok := kindOf(t, "reasm", "name").(*ast.StructType); !ok {
+		t.Error("reasm: what tells packets apart is no struct")
+	}
+	if _, ok := kindOf(t, "chunk", "value").(*ast.InterfaceType); !ok {
+		t.Error("chunk: what a chunk's value is stands in no interface")
+	}
+}
