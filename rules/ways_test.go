@@ -385,3 +385,25 @@ func TestWaysOfStageSix(t *testing.T) {
 		t.Error("chunk: what a chunk's value is stands in no interface")
 	}
 }
+
+// leavesByLabel: does a function leave a loop by the loop's label?
+func leavesByLabel(n ast.Node) bool {
+	x, ok := n.(*ast.BranchStmt)
+	return ok && x.Tok == token.BREAK && x.Label != nil
+}
+
+// The ways of stage 7: streams' pieces are laid into a map and go out of it, and runs of them are left from within by a label; outq's pieces are gone through by a range over a function, and how they stand is counted by iota.
+func TestWaysOfStageSeven(t *testing.T) {
+	wantWays(t, map[string]func(*ast.FuncDecl) bool{
+		"streams.New":     makesAMap,
+		"streams.lift":    deletes,
+		"streams.release": deletes,
+		"streams.run":     has(leavesByLabel),
+		"outq.Send":       rangesOverCall,
+		"outq.Expire":     rangesOverCall,
+		"outq.Flight":     rangesOverCall,
+	})
+	if !countsByIota(t, "outq") {
+		t.Error("outq: how a piece stands is not counted from 0")
+	}
+}
