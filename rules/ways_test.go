@@ -407,3 +407,50 @@ func TestWaysOfStageSeven(t *testing.T) {
 		t.Error("outq: how a piece stands is not counted from 0")
 	}
 }
+
+// embeds: has a struct of a layer a type embedded, by the name that it has there?
+func embeds(t *testing.T, layer, name, part string) bool {
+	t.Helper()
+	of, ok := kindOf(t, layer, name).(*ast.StructType)
+	if !ok {
+		return false
+	}
+	for _, field := range of.Fields.List {
+		x := field.Type
+		if star, ok := x.(*ast.StarExpr); ok {
+			x = star.X
+		}
+		if from, ok := x.(*ast.SelectorExpr); ok && len(field.Names) == 0 && from.Sel.Name == part {
+			return true
+		}
+	}
+	return false
+}
+
+// reaches asks whether something is a part of what it belongs to, by its name alone.
+func reaches(name string) func(ast.Node) bool {
+	return func(n ast.Node) bool {
+		x, ok := n.(*ast.SelectorExpr)
+		if !ok {
+			return false
+		}
+		_, direct := x.X.(*ast.Ident)
+		return direct && x.Sel.Name == name
+	}
+}
+
+// The ways of stage 8: what a path is for others is embedded in it, and its fields are reached through it; assoc's chunks are laid into a packet by a variadic call, and its two ways stand in an array.
+func TestWaysOfStageEight(t *testing.T) {
+	wantWays(t, map[string]func(*ast.FuncDecl) bool{
+		"path.Grow":    has(reaches("Window")),
+		"path.measure": has(reaches("Mean")),
+		"assoc.packet": isVariadic,
+		"assoc.put":    isVariadic,
+	})
+	if !embeds(t, "path", "Path", "Way") {
+		t.Error("path: what a way is for others is not embedded")
+	}
+	if of, ok := kindOf(t, "assoc", "lanes").(*ast.ArrayType); !ok || of.Len == nil {
+		t.Error("assoc: the two ways stand in no array")
+	}
+}
