@@ -199,6 +199,24 @@ func TestShutdownKeepsWhatWasTaken(t *testing.T) {
 	wantLeft(t, a, 3, 0, 0)
 }
 
+// P16.6: nor does it where its TSN goes on: what was taken behind it is not sent again.
+func TestShutdownGoesOn(t *testing.T) {
+	a, _ := meet(t, asker, asked)
+	send(t, a, "one", "two", "three", "four", "five", "six", "seven")
+	a.Pull()
+	toAsker(t, a, 0, start, sack(0, 16384, [2]uint16{2, 3}, [2]uint16{5, 5}, [2]uint16{7, 7}))
+	toAsker(t, a, 0, start, shutdown(3))
+	wantLeft(t, a, 4, 0, 0)
+	wantPull(t, a)
+	tick(t, a, start+30)
+	wantPull(t, a, fromAsker(0, piece(4, 3, "four"), piece(6, 5, "six")))
+	toAsker(t, a, 0, start+31, shutdown(5))
+	wantLeft(t, a, 2, 0, 0)
+	wantPull(t, a)
+	toAsker(t, a, 0, start+31, shutdown(7))
+	wantState(t, a, api.ShutdownAckSent)
+}
+
 // P16.6: what does not belong to a state changes nothing in it.
 func TestShutInOtherStates(t *testing.T) {
 	chunks := []api.Chunk{of(api.ShutdownAck), of(api.ShutdownComplete)}

@@ -15,9 +15,10 @@ const (
 )
 
 const (
-	maxCookie = 512
-	nonceLen  = 8
-	borrowed  = 1 // the bit of Flags by which one who has no tag sends the one that it was sent
+	maxCookie  = 512
+	nonceLen   = 8
+	firstBlock = 2 // where a block may begin: the TSN behind that of an acknowledgement did not come
+	borrowed   = 1 // the bit of Flags by which one who has no tag sends the one that it was sent
 )
 
 // ack is what is to be acknowledged: how many packets with pieces, on which way, and when.
@@ -234,6 +235,7 @@ func (a *Assoc) credit(c api.Chunk) {
 	}
 	a.faults = 0
 	a.room = int(c.Room)
+	a.heard = api.Chunk{TSN: c.TSN, Blocks: c.Blocks}
 	for i, size := range acked.Bytes {
 		if size > 0 {
 			a.ways[i].Grow(size, acked.Moved, flight[i])
@@ -264,11 +266,24 @@ func (a *Assoc) takeBeat(c api.Chunk, w int) {
 	}
 }
 
+// shifted is the blocks of an acknowledgement as they stand from a later TSN on.
+func shifted(c api.Chunk, tsn uint32) [][2]uint16 {
+	var out [][2]uint16
+	moved := int(tsn - c.TSN) // TSNs go round
+	for _, block := range c.Blocks {
+		first, last := max(int(block[0])-moved, firstBlock), int(block[1])-moved
+		if first <= last {
+			out = append(out, [2]uint16{uint16(first), uint16(last)})
+		}
+	}
+	return out
+}
+
 // takeShutdown takes that the other side has nothing to send any more.
 func (a *Assoc) takeShutdown(c api.Chunk) {
-	// It says nothing of pieces behind its TSN: where that is none, what was taken behind a gap is to stay so.
+	// It says nothing of pieces behind its TSN: what was taken behind a gap is to stay so.
 	if c.TSN != a.queue.Cum() {
-		a.credit(api.Chunk{Type: api.Sack, TSN: c.TSN, Room: uint32(a.room)})
+		a.credit(api.Chunk{Type: api.Sack, TSN: c.TSN, Room: uint32(a.room), Blocks: shifted(a.heard, c.TSN)})
 	}
 	switch a.state {
 	case api.Established, api.ShutdownPending:

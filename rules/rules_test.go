@@ -19,7 +19,7 @@ const root = ".."
 // layers are the packages in the order in which each may call those ahead of it.
 var layers = []string{
 	"api", "octet", "sums", "serial", "gaps", "hash", "cookie", "ring", "ether", "arp", "ip",
-	"reasm", "chunk", "streams", "outq", "path", "assoc", "host", "world", "judge",
+	"reasm", "chunk", "streams", "outq", "path", "assoc", "draws", "host", "world", "judge",
 }
 
 // library is what of Go's own packages the program may import.

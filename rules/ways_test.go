@@ -454,3 +454,59 @@ func TestWaysOfStageEight(t *testing.T) {
 		t.Error("assoc: the two ways stand in no array")
 	}
 }
+
+// rangesOver asks whether something goes through what has a name, as it is or as a part of what it belongs to.
+func rangesOver(name string) func(ast.Node) bool {
+	return func(n ast.Node) bool {
+		loop, ok := n.(*ast.RangeStmt)
+		if !ok {
+			return false
+		}
+		part, ok := loop.X.(*ast.SelectorExpr)
+		return ok && part.Sel.Name == name
+	}
+}
+
+// cutsOut: is it a call that takes elements out of a list by package slices?
+func cutsOut(n ast.Node) bool {
+	call, ok := n.(*ast.CallExpr)
+	if !ok {
+		return false
+	}
+	of, ok := call.Fun.(*ast.SelectorExpr)
+	if !ok {
+		return false
+	}
+	pack, ok := of.X.(*ast.Ident)
+	return ok && pack.Name == "slices" && of.Sel.Name == "Delete"
+}
+
+// isArray: is a type of a layer an array?
+func isArray(t *testing.T, layer, name string) bool {
+	t.Helper()
+	of, ok := kindOf(t, layer, name).(*ast.ArrayType)
+	return ok && of.Len != nil
+}
+
+// The ways of stage 9: host's sockets are an array, and its cards are gone through by the range of a number; world's hosts by the range of an array, and what is under way is cut out by package slices; judge's sides stand in a map.
+func TestWaysOfStageNine(t *testing.T) {
+	wantWays(t, map[string]func(*ast.FuncDecl) bool{
+		"host.Step":    has(rangesOver("Cards")),
+		"world.round":  has(rangesOver("hosts")),
+		"world.carry":  has(rangesOver("hosts")),
+		"world.meddle": has(cutsOut),
+	})
+	if !isArray(t, "host", "sockets") {
+		t.Error("host: sockets are no array")
+	}
+	if !isArray(t, "world", "pair") {
+		t.Error("world: hosts are no array")
+	}
+	of, ok := kindOf(t, "judge", "court").(*ast.MapType)
+	if !ok {
+		t.Fatal("judge: sides stand in no map")
+	}
+	if by, ok := of.Key.(*ast.Ident); !ok || by.Name != "side" {
+		t.Error("judge: sides do not stand by what they are")
+	}
+}
